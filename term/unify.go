@@ -56,6 +56,12 @@ func (c *classes) best(t api.Term) int {
 	return i
 }
 
+// bestTerm: the best of t's class. Where it stands is asked in a statement of its own: asking may put t behind the terms, and the language doesn't say whether they would be read ahead of a call in the index or behind it.
+func (c *classes) bestTerm(t api.Term) api.Term {
+	i := c.best(t)
+	return c.terms[i]
+}
+
 func (c *classes) find(t api.Term) int {
 	for i, u := range c.terms {
 		if u == t {
@@ -73,14 +79,14 @@ func (c *classes) canSay(by api.Term) bool {
 	if !Variable(by) {
 		return true
 	}
-	t := c.terms[c.best(by)]
+	t := c.bestTerm(by)
 	return Variable(t) || Principal(t)
 }
 
 func (c *classes) binding() api.Binding {
 	var out api.Binding
 	for _, t := range c.terms {
-		to := c.terms[c.best(t)]
+		to := c.bestTerm(t)
 		if Variable(t) && to != t {
 			out = append(out, api.Bind{Var: t.N, To: to})
 		}

@@ -70,6 +70,26 @@ func TestUnifyOfQualifiers(t *testing.T) {
 	})
 }
 
+// TestUnifyOfAQualifierThatIsLinkedWithNothing: the same variable says both, so that no class has it until the qualifier is asked about; with other classes ahead, and without.
+func TestUnifyOfAQualifierThatIsLinkedWithNothing(t *testing.T) {
+	checkUnified(t, []unifyRow{
+		{says(x(0)), says(x(0)), nil, true},
+		{says(x(greatestInt)), says(x(greatestInt)), nil, true},
+		{says(x(0), num(5), x(1)), says(x(0), num(5), x(1)), nil, true},
+		{says(x(0), x(1)), says(x(0), num(5)), binds(bind(1, num(5))), true},
+		{says(x(2), x(1)), says(x(2), x(0)), binds(bind(1, x(0))), true},
+	})
+	for n := range 20 {
+		a, b := says(x(0)), says(x(0))
+		var want api.Binding
+		for i := range n {
+			a.Args, b.Args = append(a.Args, x(i+1)), append(b.Args, num(i))
+			want = append(want, bind(i+1, num(i)))
+		}
+		checkUnified(t, []unifyRow{{a, b, want, true}})
+	}
+}
+
 func TestUnifyOfClasses(t *testing.T) {
 	checkUnified(t, []unifyRow{
 		{p(x(4)), p(x(4)), nil, true},
