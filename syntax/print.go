@@ -10,7 +10,7 @@ import (
 	"hearsay/tokens"
 )
 
-const between = ", "
+const comma = ", "
 
 // PrintTerm: the term's text; "" for what is neither a constant nor a variable.
 func PrintTerm(t api.Term) string {
@@ -43,7 +43,7 @@ func PrintAtom(a api.Atom) string {
 	for _, t := range a.Args {
 		args = append(args, PrintTerm(t))
 	}
-	return out + "(" + strings.Join(args, between) + ")"
+	return out + "(" + strings.Join(args, comma) + ")"
 }
 
 // Print: the clause's text; "" if it isn't valid.
@@ -60,7 +60,7 @@ func Print(c api.Clause) string {
 	}
 	out := PrintAtom(c.Head)
 	if len(body) > 0 {
-		out += " :- " + strings.Join(body, between)
+		out += " :- " + strings.Join(body, comma)
 	}
 	return out + "."
 }
